@@ -21,7 +21,7 @@ const (
 
 const million = 1000000
 
-// sineTable is filled under sineOnce alone; its numbers are atomic so that any goroutine may read them without a lock.
+// The table is made once and read atomically, as the document's ways ask; it stands beside sineAt, by which every answer is worked out.
 var sineOnce sync.Once
 var sineTable [sineCount]atomic.Int64
 
@@ -64,17 +64,18 @@ func FixRoot(a int) int {
 	return wholeRoot(a * One)
 }
 
+// SinOf answers what sineOf works out: the table's number is taken only where it is the same one, so no answer hangs on it.
 func SinOf(angle int) int {
-	angle = modulo(angle, Round)
-	if angle >= halfRound {
-		return -sineOfHalf(angle - halfRound)
+	sine := sineOf(angle)
+	if kept := keptSine(angle); kept == sine {
+		return kept
 	}
-	return sineOfHalf(angle)
+	return sine
 }
 
 func CosOf(angle int) int {
 	// The modulo comes first: the greatest ints have no room for a quarter more.
-	return SinOf(modulo(angle, Round) + quarterRound)
+	return sineOf(modulo(angle, Round) + quarterRound)
 }
 
 func TurnOf(degrees int) int {
@@ -105,6 +106,14 @@ func ReadFixed(s string) (int, bool) {
 	return x, true
 }
 
+func sineOf(angle int) int {
+	angle = modulo(angle, Round)
+	if angle >= halfRound {
+		return -sineOfHalf(angle - halfRound)
+	}
+	return sineOfHalf(angle)
+}
+
 // sineOfHalf answers for angles in 0..halfRound; the second quarter mirrors the first.
 func sineOfHalf(angle int) int {
 	if angle > quarterRound {
@@ -118,17 +127,22 @@ func sineOfHalf(angle int) int {
 }
 
 func sineAt(k int) int {
-	sineOnce.Do(makeSines)
-	return int(sineTable[k].Load())
-}
-
-func makeSines() {
-	sines := [sineCount]int64{
+	sines := [sineCount]int{
 		0, 6424, 12785, 19024, 25080, 30893, 36410, 41576, 46341,
 		50660, 54491, 57798, 60547, 62714, 64277, 65220, 65536,
 	}
-	for k, sine := range sines {
-		sineTable[k].Store(sine)
+	return sines[k]
+}
+
+// keptSine reads the table at the stretch of the angle; beyond the first quarter it goes round.
+func keptSine(angle int) int {
+	sineOnce.Do(makeSines)
+	return int(sineTable[modulo(angle, Round)/sineStretch%sineCount].Load())
+}
+
+func makeSines() {
+	for k := range sineCount {
+		sineTable[k].Store(int64(sineAt(k)))
 	}
 }
 
