@@ -106,6 +106,7 @@ func ReadFixed(s string) (int, bool) {
 	return x, true
 }
 
+// sineOf meets no variable: the other chapters turn by it.
 func sineOf(angle int) int {
 	angle = modulo(angle, Round)
 	if angle >= halfRound {
